@@ -1,0 +1,54 @@
+package things
+
+import (
+	"slices"
+	"testing"
+
+	"supercargo/api"
+)
+
+// P1: the first thing of which something is wrong tells, whatever is wrong of those behind it, which nobody asks of.
+func TestFirstError(t *testing.T) {
+	for _, c := range []struct {
+		l    []api.Errno
+		want api.Errno
+	}{
+		{nil, api.OK},
+		{[]api.Errno{}, api.OK},
+		{[]api.Errno{0}, api.OK},
+		{[]api.Errno{0, 0, 0}, api.OK},
+		{[]api.Errno{3}, 3},
+		{[]api.Errno{0, 0, 7}, 7},
+		{[]api.Errno{0, 5, 2, 0, 1}, 5},
+		{[]api.Errno{8, 1}, 8},
+	} {
+		var asked []int
+		e := FirstError(c.l, func(place int, thing api.Errno) api.Errno {
+			if thing != c.l[place] {
+				t.Errorf("place %d of %v: %d", place, c.l, thing)
+			}
+			asked = append(asked, place)
+			return thing
+		})
+		many := len(c.l)
+		if c.want != api.OK {
+			many = slices.Index(c.l, c.want) + 1
+		}
+		if e != c.want || len(asked) != many || !slices.IsSorted(asked) {
+			t.Errorf("FirstError of %v = %d, asked %v, want %d", c.l, e, asked, c.want)
+		}
+	}
+}
+
+// P1: things of any kind.
+func TestFirstErrorOfTexts(t *testing.T) {
+	empty := func(_ int, text string) api.Errno {
+		if text == "" {
+			return api.ErrFew
+		}
+		return api.OK
+	}
+	if e, f := FirstError([]string{"a", "b"}, empty), FirstError([]string{"a", "", "b"}, empty); e != api.OK || f != api.ErrFew {
+		t.Errorf("%d, %d", e, f)
+	}
+}
