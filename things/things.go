@@ -12,3 +12,14 @@ func FirstError[T any](l []T, check func(place int, thing T) api.Errno) api.Errn
 	}
 	return api.OK
 }
+
+// Places: the places of a list of which something is so, by number; so is told the thing there, too.
+func Places[T any](l []T, so func(place int, thing T) bool) []int {
+	var places []int
+	for place, thing := range l {
+		if so(place, thing) {
+			places = append(places, place)
+		}
+	}
+	return places
+}

@@ -52,3 +52,35 @@ func TestFirstErrorOfTexts(t *testing.T) {
 		t.Errorf("%d, %d", e, f)
 	}
 }
+
+// S2: just the places of which it is so, by number, each one asked of once, in order, with the thing there.
+func TestPlaces(t *testing.T) {
+	for _, c := range []struct{ l, want []int }{
+		{nil, nil},
+		{[]int{}, nil},
+		{[]int{1}, nil},
+		{[]int{7}, []int{0}},
+		{[]int{7, 1, 9, 8, 7}, []int{0, 2, 3, 4}},
+		{[]int{1, 2, 3}, nil},
+	} {
+		var asked []int
+		got := Places(c.l, func(place int, thing int) bool {
+			if thing != c.l[place] {
+				t.Errorf("place %d of %v: %d", place, c.l, thing)
+			}
+			asked = append(asked, place)
+			return thing > 5
+		})
+		if !slices.Equal(got, c.want) || len(asked) != len(c.l) || !slices.IsSorted(asked) {
+			t.Errorf("Places of %v = %v, asked %v, want %v", c.l, got, asked, c.want)
+		}
+	}
+}
+
+// S2: places of things of any kind, told by the place too.
+func TestPlacesOfTexts(t *testing.T) {
+	got := Places([]string{"a", "", "b", ""}, func(place int, text string) bool { return text == "" && place > 1 })
+	if !slices.Equal(got, []int{3}) {
+		t.Errorf("%v", got)
+	}
+}
